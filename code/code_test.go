@@ -965,7 +965,7 @@ func TestNoCodeBeginsAnotherOne(t *testing.T) {
 
 // Every row of MaxLen bits begins with just one code, and the decoder takes just that one.
 func TestEveryRowBeginsWithOneCode(t *testing.T) {
-	for k, lens := range append(wholeOnes(), full()) {
+	for _, lens := range append(wholeOnes(), full()) {
 		codes, _ := code.Codes(lens)
 		d := decoder(t, api.MaxSymbols, lens)
 		begun := make([][]int, 1<<api.MaxLen)
@@ -980,9 +980,6 @@ func TestEveryRowBeginsWithOneCode(t *testing.T) {
 		for row, symbols := range begun {
 			if len(symbols) != 1 {
 				t.Fatalf("lengths %v: %015b begins with the codes of %v", lens, row, symbols)
-			}
-			if row%7 != k%7 && len(lens) > 16 {
-				continue
 			}
 			var from bits.Reader
 			turned := bits.Flip(uint64(row), api.MaxLen)
